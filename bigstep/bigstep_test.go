@@ -193,13 +193,9 @@ func TestRun(t *testing.T) {
 		"atomic (try atomic (open l (o := 9) undo (fun u -> q := !o); x := 3; raise 1) with e -> y := e)":                                        "val0[1 1 9 9 5 6] [] val0",
 		"atomic (try (open l (o := 9) undo (fun u -> q := !o); x := 3; raise 1) with e -> y := e)":                                               "val0[3 1 9 4 5 6] [] val0",
 		"(atomic (open l (o := 9) undo (fun u -> q := 8)); atomic (raise 6))":                                                                    "val0[1 2 9 4 5 6] exn6[1 2 3 4 5 6] [] exn6",
-		"atomic (open l (o := 9) undo (x := 5; fun u -> o := !x))":                                                                               "",
 		"atomic (let k = 5 in open l (o := 9; 2) undo (x := 6; fun u -> o := k); raise 1)":                                                       "exn1[1 2 5 4 5 6] [] exn1",
 		"atomic ((atomic (open l (o := 9) undo (fun u -> q := !q + 1)); open l (o := 8) undo (fun u -> q := !q * 3); retry) orelse ())":          "val0[1 2 8 13 5 6] [] val0",
 	} {
-		if want == "" {
-			continue
-		}
 		p := sound(t, before+"thread "+text+";;")
 		memory := []int{1, 2, 3, 4, 5, 6}
 		r, err := bigstep.Run(p, 0, [][]int{memory, memory, memory}, bigstep.Fuel)
