@@ -325,12 +325,26 @@ func TestHolds(t *testing.T) {
 		{"ref x;; check !x < 5;;", []int{4}, 4, true, api.OK}, {"ref x;; check !x < 5;;", []int{4}, 3, false, api.OK}, {"ref x;; check !x < 5;; check !x < 6;;", []int{4}, 4, true, api.OK},
 		{"ref x;; check !x < 5;; check !x < 3;;", []int{4}, 9, false, api.OK}, {"ref x;; check raise 1;;", []int{4}, 9, false, api.OK},
 		{"ref x;;", []int{1}, -1, false, api.ErrArg}, {"ref x;;", []int{1}, bigstep.Fuel + 1, false, api.ErrArg}, {"ref x;;", nil, 1, false, api.ErrArg}, {"ref x;;", []int{1, 2}, 1, false, api.ErrArg},
-		{"ref x;;", []int{api.Most + 1}, 1, false, api.ErrArg}, {"array a 33;;", nil, 1, false, api.ErrFull}, {"array a 33;;", nil, -1, false, api.ErrArg}, {"let z = raise 1;;", nil, 1, false, api.ErrArg},
+		{"ref x;;", []int{api.Most + 1}, 1, false, api.ErrArg}, {"array a 33;;", nil, 1, false, api.ErrFull}, {"array a 33;;", make([]int, 33), 1, false, api.ErrFull}, {"array a 33;;", nil, -1, false, api.ErrArg}, {"let z = raise 1;;", nil, 1, false, api.ErrArg},
 		{"let z = let rec f n = f n in f 1;;", nil, 1, false, api.ErrFuel}, {"let z = let rec f n = f n in f 1;;", []int{1}, 1, false, api.ErrArg},
 	} {
 		if got, err := bigstep.Holds(sound(t, x.text), x.locs, x.fuel); got != x.want || err != x.err {
 			t.Error(x, got, err)
 		}
+	}
+}
+
+// Programs that are no trees must not stop Names and Locs.
+func TestBroken(t *testing.T) {
+	p := api.Prog{Decls: []api.Decl{{Kind: api.DThread, Body: 1}, {Kind: api.DThread, Body: 9}, {Kind: api.DCheck, Body: -1}, {Kind: api.DArray, N: -3}}, Nodes: []api.Node{{Kind: api.EApp, Name: "x", Of: []int{1, 0, 7, -1}}, {Kind: api.EFun, Name: "x", Of: []int{0, 1}}}}
+	if got := bigstep.Names(p, 0); !slices.Equal(got, []string{"x"}) {
+		t.Error(got)
+	}
+	if locs, _, err := bigstep.Locs(p); len(locs) != 0 || err != api.OK {
+		t.Error(locs, err)
+	}
+	if _, err := bigstep.Run(p, 0, nil, 50); err != api.OK || bigstep.Fuel != 20000 {
+		t.Error(err)
 	}
 }
 

@@ -216,6 +216,14 @@ func TestDepthFails(t *testing.T) {
 		"two numbers of locals": fun(push(1), at(api.INone, 2), op(api.IRetry)),
 		"handler as next":       fun(at(api.ITry, 1), op(api.IRetry)),
 		"a loop that grows":     fun(push(1), at(api.IJump, 0)),
+		"get of nothing":        fun(op(api.IGet), op(api.IRetry)),
+		"some of nothing":       fun(op(api.ISome), op(api.IRetry)),
+		"print of nothing":      fun(op(api.IPrint), op(api.IRetry)),
+		"set of one":            fun(push(1), op(api.ISet), op(api.IRetry)),
+		"bind of nothing":       fun(op(api.IBind), op(api.IRetry)),
+		"open with nothing":     fun(op(api.IOpen), op(api.IRetry)),
+		"match of nothing":      fun(at(api.INone, 1), op(api.IRetry)),
+		"check of nothing":      fun(op(api.ICheck)),
 		"opcode 0":              fun(op(api.IRetry), op(0)),
 		"opcode 32":             fun(op(api.IRetry), op(32)),
 		"opcode -1":             fun(op(-1)),
@@ -314,6 +322,25 @@ func TestRight(t *testing.T) {
 	c.Locks = api.MaxLock
 	if !code.Right(c) {
 		t.Error("the greatest numbers")
+	}
+	c = good()
+	c.Funs[0].Ins[7].A = 0
+	c.Funs[0].Ins[8].Val = api.Value{Kind: api.VPair, Of: []api.Value{{Kind: api.VRef, N: 1}, {Kind: api.VSome, Of: []api.Value{{Kind: api.VArray, N: 1, M: 1}}}}}
+	c.Funs = append(c.Funs, api.Func{Own: api.MaxNode, Ins: []api.Ins{op(api.IRetry)}})
+	for len(c.Funs) < api.MaxNode {
+		c.Funs = append(c.Funs, api.Func{Ins: []api.Ins{op(api.IRetry)}})
+	}
+	if !code.Right(c) {
+		t.Error("as many functions as possible")
+	}
+	c.Funs[3].Own++
+	if code.Right(c) {
+		t.Error("too many captured values")
+	}
+	c.Funs[3].Own--
+	c.Funs = append(c.Funs, api.Func{Ins: []api.Ins{op(api.IRetry)}})
+	if code.Right(c) {
+		t.Error("too many functions")
 	}
 }
 

@@ -35,7 +35,7 @@ func TestWords(t *testing.T) {
 		want []string
 	}{
 		{"", nil}, {" \t\n ", nil}, {"0 10", []string{"0", "10"}}, {"1099511627776", []string{"1099511627776"}},
-		{"A_9z B", []string{"A_9z", "B"}}, {"abcdefghijkl", []string{"abcdefghijkl"}},
+		{"A_9zZ Ba", []string{"A_9zZ", "Ba"}}, {"abcdefghijkl", []string{"abcdefghijkl"}},
 		{";;;", []string{";;", ";"}}, {"|||", []string{"||", "|"}}, {"===", []string{"==", "="}}, {"->-", []string{"->", "-"}},
 		{"&&a.[1]", []string{"&&", "a", ".[", "1", "]"}}, {"():=;,|=<+-*!", []string{"(", ")", ":=", ";", ",", "|", "=", "<", "+", "-", "*", "!"}},
 		{"f(x)\ty", []string{"f", "(", "x", ")", "y"}}, {"1+2", []string{"1", "+", "2"}}, {"x1 2", []string{"x1", "2"}},

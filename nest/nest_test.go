@@ -84,6 +84,9 @@ func TestEnd(t *testing.T) {
 	if got := nest.End([]api.Level{bottom, outer, inner}); !same(got, []api.Level{bottom, want}) {
 		t.Error(got)
 	}
+	if got := nest.End([]api.Level{outer, inner}); !same(got, []api.Level{want}) {
+		t.Error(got)
+	}
 	if got := nest.End([]api.Level{outer}); !same(got, []api.Level{outer}) {
 		t.Error(got)
 	}
@@ -121,6 +124,36 @@ func TestAll(t *testing.T) {
 	}
 	if reads, writes := nest.All(nil); len(reads) != 0 || len(writes) != 0 {
 		t.Error(reads, writes)
+	}
+}
+
+// Two results from the same levels do not disturb each other.
+func TestSharing(t *testing.T) {
+	l := nest.Begin(nil)
+	for k := range 5 {
+		l = nest.Keep(nest.Put(nest.Read(l, seen(k, k, k)), put(k, k)), undo(k))
+	}
+	for what, change := range map[string]func(l []api.Level, n int) []api.Level{
+		"Begin": func(l []api.Level, n int) []api.Level { return nest.Put(nest.Begin(l), put(n, n)) },
+		"Read":  func(l []api.Level, n int) []api.Level { return nest.Read(l, seen(n, n, n)) },
+		"Put":   func(l []api.Level, n int) []api.Level { return nest.Put(l, put(n, n)) },
+		"over":  func(l []api.Level, n int) []api.Level { return nest.Put(l, put(1, n)) },
+		"Keep":  func(l []api.Level, n int) []api.Level { return nest.Keep(l, undo(n)) },
+		"End": func(l []api.Level, n int) []api.Level {
+			return nest.End(nest.Keep(nest.Put(nest.Read(nest.Begin(l), seen(n, n, n)), put(n, n)), undo(n)))
+		},
+		"Drop": func(l []api.Level, n int) []api.Level {
+			got, _ := nest.Drop(nest.Read(nest.Begin(l), seen(n, n, n)))
+			return got
+		},
+	} {
+		before := clone(l)
+		one := change(l, 10)
+		kept := clone(one)
+		change(l, 20)
+		if !same(l, before) || !same(one, kept) {
+			t.Error(what)
+		}
 	}
 }
 

@@ -1,6 +1,7 @@
 package opt_test
 
 import (
+	"math/rand"
 	"reflect"
 	"strings"
 	"testing"
@@ -10,6 +11,7 @@ import (
 	"hallmoot/opt"
 	"hallmoot/parse"
 	"hallmoot/value"
+	"hallmoot/vm"
 )
 
 func compile(t *testing.T, text string) api.Code {
@@ -46,7 +48,7 @@ func accesses(c api.Code) string {
 	return strings.Join(out, " ")
 }
 
-const before = "ref x;; ref y;; array a 3;; open ref o;; lock l;; "
+const before = "ref x;; ref y;; array a 3;; array o1 2;; open ref o;; lock l;; "
 
 // P12.1: what programs are marked with; the thread's function is the last one.
 func TestPrograms(t *testing.T) {
@@ -58,6 +60,7 @@ func TestPrograms(t *testing.T) {
 		"thread atomic (x := 1; x := !x + 1);;":                                      "sGS",
 		"thread (atomic !x; atomic !x);;":                                            "gg",
 		"thread atomic (a.[1] := !a.[0]; a.[1] := !a.[0]; !a.[2]);;":                 "gsGSg",
+		"thread atomic (!a.[1]; !y; !o1.[0]; !a.[2]; !a.[0]);;":                      "ggggg",
 		"thread atomic (a.[3] := 1; a.[3] := 1);;":                                   "ss",
 		"thread atomic (a.[1 + 0] := 1; a.[1 + 0] := 1);;":                           "ss",
 		"thread atomic (a.[!x] := 1; a.[!x] := 1);;":                                 "gsGs",
@@ -112,6 +115,13 @@ func TestCode(t *testing.T) {
 		"a join":                             {api.Func{Ins: []api.Ins{ref(0), op(api.IGet), at(api.IJump, 3), ref(0), op(api.IGet), op(api.IRetry)}}, "gg"},
 		"a stack across a join":              {api.Func{Ins: []api.Ins{ref(0), at(api.IJump, 2), op(api.IGet), ref(0), op(api.IGet), op(api.IRetry)}}, "gg"},
 		"not a location":                     {api.Func{Ins: []api.Ins{num(0), op(api.IGet), num(0), op(api.IGet), op(api.IRetry)}}, "gg"},
+		"a bound one behind captured ones":   {api.Func{Own: 2, Rec: true, Ins: []api.Ins{ref(0), op(api.IBind), at(api.ILocal, 4), op(api.IGet), ref(0), op(api.IGet), at(api.ILocal, 3), op(api.IGet), op(api.IRetry)}}, "gGg"},
+		"jumps to nowhere":                   {api.Func{Ins: []api.Ins{ref(0), op(api.IGet), op(api.IRetry), at(api.IJump, 99), at(api.INone, -1), at(api.IUnbind, -3), at(api.IUnbind, 1<<62), ref(0), op(api.IGet)}}, "gg"},
+		"the last target":                    {api.Func{Ins: []api.Ins{num(1), at(api.IFalse, 5), ref(0), op(api.IGet), op(api.IRetry), ref(0), op(api.IGet), op(api.IRetry)}}, "gg"},
+		"an outer local stays":               {api.Func{Ins: []api.Ins{num(1), op(api.IBind), at(api.ILocal, 1), op(api.IGet), num(1), op(api.IBind), at(api.ILocal, 2), op(api.IGet), at(api.ILocal, 1), at(api.IUnbind, 1), op(api.IGet), at(api.ILocal, 1), op(api.IGet), op(api.IRetry)}}, "ggGG"},
+		"a location stays":                   {api.Func{Ins: []api.Ins{ref(0), op(api.IGet), ref(0), ref(0), op(api.IBind), at(api.IUnbind, 1), op(api.IGet), ref(0), op(api.IGet), op(api.IRetry)}}, "gGG"},
+		"an outer name stays":                {api.Func{Ins: []api.Ins{ref(0), op(api.IBind), num(1), op(api.IBind), at(api.IUnbind, 1), at(api.ILocal, 1), op(api.IGet), ref(0), op(api.IGet), op(api.IRetry)}}, "gG"},
+		"an unbound name is gone":            {api.Func{Ins: []api.Ins{ref(0), op(api.IBind), at(api.IUnbind, 1), num(1), op(api.IBind), at(api.ILocal, 1), op(api.IGet), ref(0), op(api.IGet), op(api.IRetry)}}, "gg"},
 		"unreachable":                        {api.Func{Ins: []api.Ins{op(api.IRetry), op(api.IDrop), ref(0), op(api.IGet), ref(0), op(api.IGet), op(api.IRetry)}}, "gG"},
 		"unreachable locals":                 {api.Func{Ins: []api.Ins{op(api.IRetry), ref(0), op(api.IBind), at(api.ILocal, 0), op(api.IGet), ref(0), op(api.IGet), at(api.ILocal, 1), op(api.IGet), op(api.IRetry)}}, "gGg"},
 		"a local after a jump is itself":     {api.Func{Ins: []api.Ins{ref(0), op(api.IBind), at(api.IJump, 3), at(api.ILocal, 1), op(api.IGet), ref(0), op(api.IGet), at(api.ILocal, 1), op(api.IGet), op(api.IRetry)}}, "ggG"},
@@ -128,6 +138,38 @@ func TestCode(t *testing.T) {
 	}
 }
 
+// Each instruction leaves what is below its operands.
+func TestStack(t *testing.T) {
+	for o, operands := range map[int]int{api.ILocal: 0, api.IFun: 0, api.ICall: 2, api.IPair: 2, api.IBin: 2, api.IIndex: 2, api.IFst: 1, api.ISnd: 1, api.ISome: 1, api.IPrint: 1, api.IGet: 1, api.ISet: 2, api.IDrop: 1, api.IFalse: 1, api.IOpen: 1, api.IBind: 1, api.INone: 1} {
+		ins := []api.Ins{ref(0)}
+		for range operands {
+			ins = append(ins, num(1))
+		}
+		i := op(o)
+		switch o {
+		case api.IFalse, api.INone:
+			i.A = len(ins) + 7
+		case api.IFun, api.IBin:
+			i.A = 1
+		}
+		ins = append(ins, i)
+		switch o {
+		case api.IDrop, api.IFalse, api.IOpen, api.IBind, api.INone:
+			ins = append(ins, num(1), op(api.IDrop))
+		default:
+			ins = append(ins, op(api.IDrop), at(api.IUnbind, 0))
+		}
+		ins = append(ins, op(api.IGet), ref(0), op(api.IGet), op(api.IRetry), op(api.IRetry))
+		c := api.Code{Funs: []api.Func{{Ins: ins}, {Ins: []api.Ins{op(api.IRetry)}}}, Threads: []int{1}, Locs: []int{0}, Open: []bool{false}, Durable: []bool{false}, Locks: 1}
+		if code.Depth(c, 0) == nil {
+			t.Error(o, "is not sound")
+		}
+		if got := strings.TrimSpace(accesses(c)); !strings.HasSuffix(got, "gG") {
+			t.Error(o, got)
+		}
+	}
+}
+
 func TestNoFunction(t *testing.T) {
 	c := compile(t, "thread 1;;")
 	for _, fun := range []int{-1, 1, 99} {
@@ -135,7 +177,7 @@ func TestNoFunction(t *testing.T) {
 			t.Error(fun, got)
 		}
 	}
-	bad := c
+	bad := compile(t, before+"thread atomic (!x + !x);;")
 	bad.Threads = nil
 	if got := opt.Of(bad); !reflect.DeepEqual(got, bad) {
 		t.Error("invalid code is changed")
@@ -182,5 +224,62 @@ func TestOf(t *testing.T) {
 	}
 	if !reflect.DeepEqual(opt.Of(flipped), once) {
 		t.Error("earlier marks matter")
+	}
+}
+
+// P12.2: on random paths through marked code, a marked read finds its location accessed before in the same nesting level.
+func TestSound(t *testing.T) {
+	marked := 0
+	for _, text := range []string{
+		"thread atomic let rec f n = (if !x < n then x := !y + 1 else (y := !x; !a.[1]; ()); (if n < 1 then 0 else f (n - 1)); a.[n] := !a.[n] + !x; !y) in f 2;;",
+		"let g = fun r -> (!r; atomic (!r; r := !r + 1); !r);; thread atomic (g x; !x; g a.[0]; (try (if !y < 2 then raise !y else !x) with e -> !x + !y); !x + !y);;",
+		"thread atomic ((!x; (if !x < 1 then retry else !x)) orelse (!x + (if !y < 2 then retry else !y)) orelse (x := 1; !x); !x; !y + !x);;",
+		"thread atomic (!x; match (if !y < 2 then None else Some x) with None -> !y | Some r -> (!r; !r; let q = r in !q + !x));;",
+		"thread atomic (o1.[!x] := 1; let b = a in (b.[1] := !b.[1]; open l (o := !o + !o) undo (fun u -> o := !o + !o); !b.[1] + !a.[1]); let r = fst (x, y) in (r := !r; if !r < 2 then r := 1 else ()));;",
+	} {
+		c := opt.Of(compile(t, before+text))
+		for seed := range 200 {
+			r := rand.New(rand.NewSource(int64(seed)))
+			f, _ := vm.Start(c, 0)
+			levels := []map[int]bool{{}}
+			for {
+				next, q, err := vm.Next(c, f)
+				if err != api.OK {
+					t.Fatal(text, err)
+				}
+				top := levels[len(levels)-1]
+				switch q.Kind {
+				case api.QGet:
+					if q.B == 1 {
+						marked++
+						if !top[q.A] {
+							t.Fatal(text, seed, q)
+						}
+					}
+					top[q.A] = true
+				case api.QSet:
+					top[q.A] = true
+				case api.QAtomic, api.QLeft, api.QOpen:
+					levels = append(levels, map[int]bool{})
+				case api.QEnd, api.QEndL, api.QEndO, api.QDrop, api.QFailO:
+					levels = levels[:len(levels)-1]
+				}
+				if q.Kind == api.QRetry {
+					left, blocks, ok := vm.Left(next)
+					if !ok {
+						break
+					}
+					next = left
+					levels = levels[:len(levels)-blocks-1]
+				}
+				if q.Kind == api.QDone || q.Kind == api.QExn {
+					break
+				}
+				f, _ = vm.Resume(next, q, r.Intn(4))
+			}
+		}
+	}
+	if marked < 1000 {
+		t.Error(marked)
 	}
 }

@@ -183,6 +183,7 @@ func TestText(t *testing.T) {
 		"thread try raise 1 with e -> print e;;":                 "thread try(raise 1)with e->(print e);;",
 		"thread open l o := 1 undo fun u -> o := 0;;":            "thread open l(o:=1)undo(fun u->(o:=0));;",
 		"thread a orelse b || c && d == e - f * g;;":             "thread a orelse(b||(c&&(d==(e-(f*g)))));;",
+		"thread A9 Z9 zA a0 az_;;":                               "thread(((A9 Z9)zA)a0)az_;;",
 		"thread fst snd (1,false);;":                             "thread fst(snd(1,false));;",
 	} {
 		if got := parse.Text(must(t, text)); got != want {

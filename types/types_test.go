@@ -239,6 +239,7 @@ func TestArrows(t *testing.T) {
 		{"fun f -> f 1", []int{-1, -1, -1, 3}, 3},
 		{"if true then fun x -> 1 else fun y -> 2", []int{-1, -1, 2, -1, 2, -1}, 2},
 		{"let rec f x = 1 in f", []int{-1, -1, 2}, 2},
+		{"if true then fun a -> 1 else (if true then fun b -> 2 else fun c -> 3)", []int{-1, -1, 2, -1, -1, 2, -1, 2, -1, -1}, 2},
 		{"(fun x -> x; fun y -> y)", []int{-1, 1, -1, 3, -1}, 3},
 		{"let h = fun g -> g 1 in (h (fun y -> y); h)", []int{-1, -1, -1, 3, -1, -1, 6, -1, -1, -1, -1}, 3},
 	} {

@@ -93,6 +93,21 @@ func TestNext(t *testing.T) {
 	}
 }
 
+// The thread 0 is an owner like any other.
+func TestThreadZero(t *testing.T) {
+	l := layoutOf(api.MTimid)
+	load := func(cell int) api.Access { return api.Access{Kind: api.ALoad, Cell: cell} }
+	own, other := load(layout.Status(l, 1)), load(layout.Status(l, 0))
+	w, v, w2 := load(layout.Word(l, 1)), load(layout.Val(l, 1)), load(layout.Word(l, 2))
+	free, held := val(word.Free(6)), val(word.Held(0))
+	op := api.Op{Kind: api.PRead, A: 1, B: 5, Seen: []api.Seen{{Loc: 2, Ver: 1}}}
+	log := []api.Result{held, val(0), val(0), free, val(7), free, val(9), held, val(0), val(0), val(word.Free(1)), free, val(7), free, val(0)}
+	want := []api.Access{w, own, other, w, v, w, load(l.Clock), w2, own, other, w2, w, v, w, own}
+	if got, out, done := follow(l, 1, op, log); !done || !slices.Equal(got, want) || out != (api.Out{Val: 7, Ver: 6, Rv: 9, Is: true}) {
+		t.Error(got, out, done)
+	}
+}
+
 // P19.3
 func TestErrors(t *testing.T) {
 	l := layoutOf(api.MGreedy)

@@ -171,6 +171,8 @@ func TestNext(t *testing.T) {
 		"order":                 {[]api.Ins{num(2), num(3), at(api.IBin, api.OSub), ret}, one(done(i(-1)))},
 		"booleans":              {[]api.Ins{pushed(b(true)), pushed(b(false)), at(api.IBin, api.OOr), ret}, one(done(b(true)))},
 		"locals":                {[]api.Ins{num(2), op(api.IBind), num(3), op(api.IBind), at(api.ILocal, 1), at(api.ILocal, 2), at(api.ILocal, 0), op(api.IPair), op(api.IPair), at(api.IUnbind, 2), ret}, one(done(data(api.VPair, i(2), data(api.VPair, i(3), unit))))},
+		"unbinding":             {[]api.Ins{num(2), op(api.IBind), at(api.IUnbind, 2), num(3), op(api.IBind), num(4), op(api.IBind), at(api.ILocal, 1), ret}, one(done(i(4)))},
+		"location 0":            {[]api.Ins{pushed(ref(0)), op(api.IGet), op(api.IDrop), pushed(ref(0)), num(1), op(api.ISet), ret}, []api.Request{ask(api.QGet, 0, 0), ask(api.QSet, 0, 1), done(unit)}},
 		"selecting":             {[]api.Ins{num(1), num(2), op(api.IPair), op(api.ISnd), op(api.ISome), num(3), op(api.IPair), op(api.IFst), ret}, one(done(data(api.VSome, i(2))))},
 		"dropping":              {[]api.Ins{num(1), num(2), op(api.IDrop), ret}, one(done(i(1)))},
 		"a true branch":         {[]api.Ins{pushed(b(true)), at(api.IFalse, 4), num(1), ret, num(2), ret}, one(done(i(1)))},
@@ -236,6 +238,7 @@ func TestErrors(t *testing.T) {
 		"first of one":          {pair, op(api.IFst), ret},
 		"second of one":         {pair, op(api.ISnd), ret},
 		"match of a number":     {num(1), at(api.INone, 3), ret, ret},
+		"match of a function":   {pushed(api.Value{Kind: api.VFun, Of: []api.Value{unit}}), at(api.INone, 3), num(1), ret},
 		"match of an empty one": {some, at(api.INone, 3), num(1), ret},
 		"match too far":         {pushed(none), at(api.INone, 5), num(1), ret},
 		"get of a number":       {num(1), op(api.IGet), ret},
@@ -285,10 +288,49 @@ func TestErrors(t *testing.T) {
 	if _, _, err := requests(c, start(c)); err != api.ErrArg {
 		t.Error("the end of a caller's block", err)
 	}
+	c = program(pushed(api.Value{Kind: api.VFun, N: 2}), num(1), op(api.ICall), ret)
+	c.Funs[2].Ins = []api.Ins{at(api.ILocal, 0), ret}
+	if _, _, err := vm.Next(c, start(c)); err != api.ErrArg {
+		t.Error("a call without captures", err)
+	}
 	c = program(at(api.IJump, 0))
 	f := start(c)
 	if g, r, err := vm.Next(c, f); err != api.ErrFuel || !reflect.DeepEqual(g, f) || !reflect.DeepEqual(r, api.Request{}) {
 		t.Error("a loop", err)
+	}
+}
+
+// Returns beside marks that are no blocks of the function, and marks in a list with spare capacity.
+func TestReturn(t *testing.T) {
+	c := program(num(1), ret)
+	for i, x := range []struct {
+		mark  api.Mark
+		calls int
+		want  api.Request
+		err   api.Errno
+	}{
+		{api.Mark{Kind: api.ICheck, Calls: 1}, 1, done(value.Int(1)), api.OK}, {api.Mark{Kind: api.ICheck}, 1, done(value.Int(1)), api.OK}, {api.Mark{Kind: api.IEndOpen, Calls: 1}, 1, ask(api.QUndone, 1, 0), api.OK},
+		{api.Mark{Kind: api.ICheck, Calls: 2}, 2, api.Request{}, api.ErrArg}, {api.Mark{Kind: api.IAtomic, Calls: 1}, 1, api.Request{}, api.ErrArg}, {api.Mark{Kind: api.IAtomic, Calls: 1}, 2, api.Request{}, api.ErrArg},
+	} {
+		f := start(c)
+		for len(f.Calls) < x.calls {
+			f.Calls = append(f.Calls, f.Calls[0])
+		}
+		f.Marks = []api.Mark{x.mark}
+		if _, r, err := vm.Next(c, f); err != x.err || !reflect.DeepEqual(r, x.want) {
+			t.Error(i, r, err)
+		}
+	}
+	c = program(op(api.IAtomic))
+	f := start(c)
+	marks := make([]api.Mark, 2)
+	marks[0] = api.Mark{Kind: api.ICheck}
+	f.Marks = marks[:1]
+	if _, r, err := vm.Next(c, f); err != api.OK || r.Kind != api.QAtomic || marks[1].Kind != 0 {
+		t.Error("the list of marks was modified", r, err, marks)
+	}
+	if vm.Fuel != 4000 {
+		t.Error("the fuel")
 	}
 }
 
@@ -444,6 +486,10 @@ func TestLeft(t *testing.T) {
 	got, blocks, ok = vm.Left(got)
 	if !ok || blocks != 1 || len(got.Marks) != 0 {
 		t.Error(got, blocks, ok)
+	}
+	last := api.Frame{Calls: calls[:1], Marks: []api.Mark{{Kind: api.IOrElse, Calls: 1, Top: top}}}
+	if got, blocks, ok := vm.Left(last); !ok || blocks != 0 || len(got.Calls) != 1 || got.Calls[0].Fun != 1 {
+		t.Error("the first call", got)
 	}
 	wrong := left
 	wrong.Calls = 4
