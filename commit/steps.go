@@ -3,15 +3,12 @@ package commit
 import (
 	"hallmoot/api"
 	"hallmoot/conflict"
+	"hallmoot/latch"
 	"hallmoot/layout"
-	"hallmoot/lock"
 	"hallmoot/manager"
 	"hallmoot/wal"
 	"hallmoot/word"
 )
-
-// nobody is the owner that Take reports for a lock that changed meanwhile.
-const nobody = -1
 
 // resolve resolves the conflict with a thread, whose number comes from memory as it is.
 func (a *attempt) resolve(other int, own bool) api.Out {
@@ -29,12 +26,12 @@ func (a *attempt) stayAlive() {
 // acquire locks a location.
 func (a *attempt) acquire(loc int) {
 	for {
-		got := a.onLock(api.Op{Kind: lock.Take, A: loc})
+		got := latch.Take(a.Run, layout.Word(a.layout, loc), a.me)
 		if got.Is {
 			a.held = append(a.held, got.Ver)
 			return
 		}
-		if got.Val == nobody {
+		if got.Val == latch.Nobody {
 			continue
 		}
 		if verdict := a.resolve(got.Val, true); verdict.Lost || verdict.Val == api.CAbort {

@@ -147,6 +147,10 @@ func TestValid(t *testing.T) {
 				}
 			}
 		},
+		"the first version twice": func(s *api.State, d *api.Attempt) {
+			i := slices.IndexFunc(s.Attempts, func(d api.Attempt) bool { return d.Ver == 1 })
+			s.Attempts = slices.Insert(s.Attempts, i, s.Attempts[i])
+		},
 		"a version twice": func(s *api.State, d *api.Attempt) { s.Attempts = append(s.Attempts, s.Attempts[len(s.Attempts)-1]) },
 	} {
 		s := play(t, "ref x;; ref y = 5;; thread atomic x := !x + 1;; thread atomic x := !x + 1;;", api.MTimid, 3, 1000)
@@ -161,6 +165,20 @@ func TestValid(t *testing.T) {
 	}
 	if !hist.Valid(api.State{}) {
 		t.Error("no history")
+	}
+	// A read by the last three events, and an attempt of one event.
+	l, _ := layout.Of(api.Conf{Threads: 1, Locs: 1})
+	load := func(cell, n int) api.Event {
+		return api.Event{Access: api.Access{Kind: api.ALoad, Cell: cell}, Result: api.Result{Val: n, Ok: true}}
+	}
+	small := api.State{Layout: l, Events: []api.Event{load(0, 0), load(layout.Word(l, 0), 6), load(layout.Val(l, 0), 5), load(layout.Word(l, 0), 6)}}
+	small.Attempts = []api.Attempt{{Kind: api.DLost}, {Kind: api.DLost, First: 0, Last: 3, Seen: []api.Seen{{Loc: 0, Ver: 3, Val: 5}}}}
+	if !hist.Valid(small) {
+		t.Error("a read at the end")
+	}
+	small.Attempts[1].Last = 2
+	if hist.Valid(small) {
+		t.Error("half a read")
 	}
 	s := play(t, texts[0], api.MTimid, 3, 1000)
 	s.Attempts[0].Kind = api.DUndo

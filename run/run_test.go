@@ -136,7 +136,17 @@ func TestStep(t *testing.T) {
 		t.Error("branches share memory")
 	}
 	for !a.Over {
-		a = run.Step(run.Step(a, 0), 1)
+		x, y := run.Step(a, 0), run.Step(a, 1)
+		k := len(a.Events)
+		if len(x.Events) > k && x.Events[k].Thread != 0 || len(y.Events) > k && y.Events[k].Thread != 1 {
+			t.Fatal("branches share events", k)
+		}
+		for me := range 2 {
+			if n := len(x.Threads[me].Steps); n > 0 && x.Events[x.Threads[me].Steps[n-1]].Thread != me {
+				t.Fatal("branches share steps", k)
+			}
+		}
+		a = run.Step(x, 1)
 	}
 	played := play(t, counters, "0x9", 1000)
 	if len(a.Attempts) < 2 || !slices.Equal(run.Locs(a), []int{6}) || !slices.Equal(run.Locs(played), []int{6}) {
@@ -195,6 +205,9 @@ func TestCrash(t *testing.T) {
 func TestPlay(t *testing.T) {
 	c := compile(t, counters)
 	conf := confOf(c, api.MTimid)
+	if s, err := run.Play(c, conf, nil, api.MaxStep); err != api.OK || s.Err != api.OK {
+		t.Error("the greatest limit", err)
+	}
 	for _, most := range []int{-1, api.MaxStep + 1} {
 		if s, err := run.Play(c, conf, nil, most); err != api.ErrArg || !reflect.DeepEqual(s, api.State{}) {
 			t.Error(most, err)

@@ -143,7 +143,7 @@ func TestReplay(t *testing.T) {
 
 // P32.3 and P32.4: what makes Holds false.
 func TestHolds(t *testing.T) {
-	text := "ref x;; thread (atomic x := !x + 1; print 4; raise 9);; thread (print 1; atomic x := !x + 1; print 2);;"
+	text := "ref x;; thread (atomic x := !x + 1; print 4; raise 9);; thread (print 1; atomic x := !x + 1; print 2; atomic !x; ());;"
 	for name, x := range map[string]struct {
 		change func(s *api.State)
 		want   bool
@@ -161,7 +161,8 @@ func TestHolds(t *testing.T) {
 		"everything, after an error": {func(s *api.State) {
 			s.Mem.Cells[layout.Val(s.Layout, 0)], s.Threads[1].Print, s.Err = 7, nil, api.ErrFuel
 		}, true},
-		"a number less, crashed": {func(s *api.State) { s.Threads[1].Print, s.Crash = nil, true }, false},
+		"another attempt, after an error": {func(s *api.State) { s.Attempts[2].N, s.Err = 5, api.ErrFuel; s.Attempts[2].Kind = api.DRaise }, false},
+		"a number less, crashed":          {func(s *api.State) { s.Threads[1].Print, s.Crash = nil, true }, false},
 		"a number less, committing": {func(s *api.State) {
 			s.Threads[1].Print = nil
 			s.Events = append(s.Events, api.Event{Access: api.Access{Kind: api.AAdd, Cell: s.Layout.Clock}, Result: api.Result{Val: 50}})

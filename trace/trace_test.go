@@ -164,6 +164,28 @@ func TestLong(t *testing.T) {
 	if got, n, err := trace.Replay(c, conf, s.Events); err != api.OK || n != len(s.Events) || len(got.Attempts) != len(s.Attempts) {
 		t.Error(n, err)
 	}
+	for _, k := range []int{0, 1, 499, 500, 501, 700} {
+		want, _ := run.Start(c, conf)
+		for _, e := range s.Events[:k] {
+			want = run.Step(want, e.Thread)
+		}
+		if got, n, err := trace.Replay(c, conf, s.Events[:k]); err != api.OK || n != k || !reflect.DeepEqual(got, want) {
+			t.Error("a prefix", k, n, err)
+		}
+		events := slices.Clone(s.Events)
+		events[k].Result.Val += 5
+		if got, n, err := trace.Replay(c, conf, events); err != api.ErrTrace || n != k || !reflect.DeepEqual(got, want) {
+			t.Error("another event", k, n, err)
+		}
+		events[k].Thread = 9
+		if got, n, err := trace.Replay(c, conf, events); err != api.ErrTrace || n != k || !reflect.DeepEqual(got, want) {
+			t.Error("an event of nobody", k, n, err)
+		}
+	}
+	whole, _ := run.Play(c, conf, nil, len(s.Events)+1)
+	if got, n, err := trace.Replay(c, conf, append(slices.Clone(s.Events), s.Events[1])); err != api.ErrTrace || n != len(s.Events) || got.Over != whole.Over || len(got.Events) != len(s.Events) {
+		t.Error("after the end", n, err)
+	}
 }
 
 // P29.5: Encode is inverse to Decode on whatever Decode accepts.

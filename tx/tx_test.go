@@ -146,30 +146,32 @@ const before = "ref x = 5;; ref y;; open ref o;; lock k;; lock l;; lock l2;; "
 // P26.2 and P26.3: the operations and attempts of one thread.
 func TestAlone(t *testing.T) {
 	for text, want := range map[string]string{
-		"thread print 3;;":                                                       "Over0 0",
-		"thread raise 3;;":                                                       "Over1 3",
-		"thread atomic ();;":                                                     "Begin1,0 Commit[] 0 <commit0 v0 rv0 [] []> Over0 0",
-		"thread atomic (x := !x + 1);;":                                          "Begin1,0 Read0 Commit[{0 6}] 0 <commit0 v1 rv0 [{0 0 5}] [{0 6}]> Over0 0",
-		"thread atomic (x := 1; !x + !x);;":                                      "Begin1,0 Commit[{0 1}] 0 <commit0 v1 rv0 [] [{0 1}]> Over0 0",
-		"thread atomic (!x + !x);;":                                              "Begin1,0 Read0 Commit[] 0 <commit0 v0 rv0 [{0 0 5}] []> Over0 0",
-		"thread (atomic (x := 1); atomic !x);;":                                  "Begin1,0 Commit[{0 1}] 0 <commit0 v1 rv0 [] [{0 1}]> Begin2,0 Read0 Commit[] 0 <commit0 v0 rv1 [{0 1 1}] []> Over0 0",
-		"thread atomic (y := 1; atomic (x := 2; y := 3));;":                      "Begin1,0 Commit[{0 2} {1 3}] 0 <commit0 v1 rv0 [] [{0 2} {1 3}]> Over0 0",
-		"thread atomic (y := 1; raise 7);;":                                      "Begin1,0 <raise7 v0 rv0 [] []> Clear[] 0,0 Over1 7",
-		"thread try atomic (y := !x; raise 7) with e -> print e;;":               "Begin1,0 Read0 <raise7 v0 rv0 [{0 0 5}] []> Clear[{0 0 5}] 0,0 Over0 0",
-		"thread atomic (try atomic (y := !x; raise 7) with e -> x := e);;":       "Begin1,0 Read0 Commit[{0 7}] 0 <commit0 v1 rv0 [{0 0 5}] [{0 7}]> Over0 0",
-		"thread atomic ((y := !x; retry) orelse (x := !x + 1));;":                "Begin1,0 Read0 Commit[{0 6}] 0 <commit0 v1 rv0 [{0 0 5}] [{0 6}]> Over0 0",
-		"thread atomic ((y := 1) orelse (x := 2));;":                             "Begin1,0 Commit[{1 1}] 0 <commit0 v1 rv0 [] [{1 1}]> Over0 0",
-		"thread atomic ((atomic (atomic (y := 2; retry))) orelse (x := 2));;":    "Begin1,0 Commit[{0 2}] 0 <commit0 v1 rv0 [] [{0 2}]> Over0 0",
-		"thread atomic ((y := 1; raise 3) orelse (x := 2));;":                    "Begin1,0 <raise3 v0 rv0 [] []> Clear[] 0,0 Over1 3",
-		"thread atomic (try (y := 1; (raise 3) orelse (x := 2)) with e -> ());;": "Begin1,0 Commit[{1 1}] 0 <commit0 v1 rv0 [] [{1 1}]> Over0 0",
-		"thread atomic (y := 1; if !x < 9 then retry else ());;":                 "Begin1,0 Read0 <wait0 v0 rv0 [{0 0 5}] []> Clear[{0 0 5}] 0,0 Watch[{0 0 5}] Sleep[{0 0 5}]",
-		"check !x < 9;; thread atomic (x := 8);;":                                "Begin1,0 Commit[{0 8}] 0 <commit0 v1 rv0 [] [{0 8}]> Over0 0",
-		"check !x < 9;; check !y < 9;; thread atomic (x := 8);;":                 "Begin1,0 Read1 Commit[{0 8}] 0 <commit0 v1 rv0 [{1 0 0}] [{0 8}]> Over0 0",
-		"check !x < 9;; check !y < 9;; thread atomic (x := 9);;":                 "Begin1,0 <raise-1 v0 rv0 [] []> Clear[] 0,0 Over1 -1",
-		"check !x < 9;; check !y < 0;; thread atomic (x := 8);;":                 "Begin1,0 Read1 <raise-1 v0 rv0 [{1 0 0}] []> Clear[{1 0 0}] 0,0 Over1 -1",
-		"check !x < 1;; thread atomic !x;;":                                      "Begin1,0 Read0 Commit[] 0 <commit0 v0 rv0 [{0 0 5}] []> Over0 0",
-		"check raise 3;; thread try atomic (x := 8) with e -> print e;;":         "Begin1,0 <raise-1 v0 rv0 [] []> Clear[] 0,0 Over0 0",
+		"thread print 3;;":                                                          "Over0 0",
+		"thread raise 3;;":                                                          "Over1 3",
+		"thread atomic ();;":                                                        "Begin1,0 Commit[] 0 <commit0 v0 rv0 [] []> Over0 0",
+		"thread atomic (x := !x + 1);;":                                             "Begin1,0 Read0 Commit[{0 6}] 0 <commit0 v1 rv0 [{0 0 5}] [{0 6}]> Over0 0",
+		"thread atomic (x := 1; !x + !x);;":                                         "Begin1,0 Commit[{0 1}] 0 <commit0 v1 rv0 [] [{0 1}]> Over0 0",
+		"thread atomic (!x + !x);;":                                                 "Begin1,0 Read0 Commit[] 0 <commit0 v0 rv0 [{0 0 5}] []> Over0 0",
+		"thread (atomic (x := 1); atomic !x);;":                                     "Begin1,0 Commit[{0 1}] 0 <commit0 v1 rv0 [] [{0 1}]> Begin2,0 Read0 Commit[] 0 <commit0 v0 rv1 [{0 1 1}] []> Over0 0",
+		"thread atomic (y := 1; atomic (x := 2; y := 3));;":                         "Begin1,0 Commit[{0 2} {1 3}] 0 <commit0 v1 rv0 [] [{0 2} {1 3}]> Over0 0",
+		"thread atomic (y := 1; raise 7);;":                                         "Begin1,0 <raise7 v0 rv0 [] []> Clear[] 0,0 Over1 7",
+		"thread try atomic (y := !x; raise 7) with e -> print e;;":                  "Begin1,0 Read0 <raise7 v0 rv0 [{0 0 5}] []> Clear[{0 0 5}] 0,0 Over0 0",
+		"thread atomic (try atomic (y := !x; raise 7) with e -> x := e);;":          "Begin1,0 Read0 Commit[{0 7}] 0 <commit0 v1 rv0 [{0 0 5}] [{0 7}]> Over0 0",
+		"thread atomic ((y := !x; retry) orelse (x := !x + 1));;":                   "Begin1,0 Read0 Commit[{0 6}] 0 <commit0 v1 rv0 [{0 0 5}] [{0 6}]> Over0 0",
+		"thread atomic ((y := 1) orelse (x := 2));;":                                "Begin1,0 Commit[{1 1}] 0 <commit0 v1 rv0 [] [{1 1}]> Over0 0",
+		"thread atomic ((atomic (atomic (y := 2; retry))) orelse (x := 2));;":       "Begin1,0 Commit[{0 2}] 0 <commit0 v1 rv0 [] [{0 2}]> Over0 0",
+		"thread atomic ((y := 1; raise 3) orelse (x := 2));;":                       "Begin1,0 <raise3 v0 rv0 [] []> Clear[] 0,0 Over1 3",
+		"thread atomic (try (y := 1; (raise 3) orelse (x := 2)) with e -> ());;":    "Begin1,0 Commit[{1 1}] 0 <commit0 v1 rv0 [] [{1 1}]> Over0 0",
+		"thread atomic (y := 1; if !x < 9 then retry else ());;":                    "Begin1,0 Read0 <wait0 v0 rv0 [{0 0 5}] []> Clear[{0 0 5}] 0,0 Watch[{0 0 5}] Sleep[{0 0 5}]",
+		"check !x < 9;; thread atomic (x := 8);;":                                   "Begin1,0 Commit[{0 8}] 0 <commit0 v1 rv0 [] [{0 8}]> Over0 0",
+		"check !x < 9;; check !y < 9;; thread atomic (x := 8);;":                    "Begin1,0 Read1 Commit[{0 8}] 0 <commit0 v1 rv0 [{1 0 0}] [{0 8}]> Over0 0",
+		"check !x < 9;; check !y < 9;; thread atomic (x := 9);;":                    "Begin1,0 <raise-1 v0 rv0 [] []> Clear[] 0,0 Over1 -1",
+		"check !x < 9;; check !y < 0;; thread atomic (x := 8);;":                    "Begin1,0 Read1 <raise-1 v0 rv0 [{1 0 0}] []> Clear[{1 0 0}] 0,0 Over1 -1",
+		"check !x < 1;; thread atomic !x;;":                                         "Begin1,0 Read0 Commit[] 0 <commit0 v0 rv0 [{0 0 5}] []> Over0 0",
+		"check raise 3;; thread try atomic (x := 8) with e -> print e;;":            "Begin1,0 <raise-1 v0 rv0 [] []> Clear[] 0,0 Over0 0",
+		"thread atomic (x := 1; atomic (y := 2; (if !x < 9 then retry else ())));;": "Begin1,0 <wait0 v0 rv0 [] []> Clear[] 0,0 Watch[] Sleep[]",
 		// Open blocks and compensations.
+		"thread atomic (!x; open l (o := 1) undo (fun u -> o := 8); atomic (!y; open k (o := 2) undo (fun u -> o := 9); retry));;":              "Begin1,0 Read0 Take1 Open1,1 DoneO[{2 1}] 5 <open1 v1 rv0 [] [{2 1}]> Read1 Take0 Open1,1 DoneO[{2 2}] 5 <open0 v2 rv1 [] [{2 2}]> <wait0 v0 rv0 [{0 0 5} {1 0 0}] []> Clear[{0 0 5} {1 0 0}] 0,0 Undo2,0 DoneU[{2 9}] 0 <undo0 v3 rv2 [] [{2 9}]> Undo3,0 DoneU[{2 8}] 0 <undo1 v4 rv3 [] [{2 8}]> Give0 Give1 Watch[{0 0 5} {1 0 0}] Sleep[{0 0 5} {1 0 0}]",
 		"thread atomic (x := 1; open l (o := !o + 1) undo fun u -> o := 0);;":                                                                   "Begin1,0 Take1 Open1,1 Read2 DoneO[{2 1}] 5 <open1 v1 rv0 [{2 0 0}] [{2 1}]> Commit[{0 1}] 0 <commit0 v2 rv0 [] [{0 1}]> Give1 Over0 0",
 		"thread atomic (open l (o := 1) undo (fun u -> o := 8); raise 4);;":                                                                     "Begin1,0 Take1 Open1,1 DoneO[{2 1}] 5 <open1 v1 rv0 [] [{2 1}]> <raise4 v0 rv0 [] []> Clear[] 0,0 Undo2,0 DoneU[{2 8}] 0 <undo1 v2 rv1 [] [{2 8}]> Give1 Over1 4",
 		"thread atomic (open l (o := 1) undo (fun u -> o := 8); open k (o := 2) undo (fun u -> o := 9); open l () undo (fun u -> ()); retry);;": "Begin1,0 Take1 Open1,1 DoneO[{2 1}] 5 <open1 v1 rv0 [] [{2 1}]> Take0 Open1,1 DoneO[{2 2}] 5 <open0 v2 rv1 [] [{2 2}]> Open1,1 DoneO[] 5 <open1 v0 rv2 [] []> <wait0 v0 rv0 [] []> Clear[] 0,0 Undo2,0 DoneU[] 0 <undo1 v0 rv2 [] []> Undo3,0 DoneU[{2 9}] 0 <undo0 v3 rv2 [] [{2 9}]> Undo4,0 DoneU[{2 8}] 0 <undo1 v4 rv3 [] [{2 8}]> Give0 Give1 Watch[] Sleep[]",
@@ -239,6 +241,49 @@ func TestLost(t *testing.T) {
 	}
 	if th := x.threads[0]; th.Stamp != 0 || th.Karma != 0 || th.Aborts != 0 || th.Rv != 0 || th.Levels != nil || th.Undo != nil {
 		t.Error("what is left of the transaction", th)
+	}
+}
+
+// Reads of newer locations extend the snapshot, of the transaction and of the open block each for itself.
+func TestExtension(t *testing.T) {
+	x := start(t, before+"thread atomic (let n = !x in open l (o := !o + n) undo (fun u -> ()); !y);; thread (atomic (y := 1); atomic (open k (o := 7) undo (fun u -> ())));;", 0)
+	x.until(0, api.GTake)
+	x.until(1, api.GTake)
+	x.until(0, api.GRead)
+	x.until(1, api.GOver)
+	if th := x.threads[0]; th.Rv != 0 || th.RvO != 1 || th.Op.B != 1 || th.Mode != api.NOpen {
+		t.Error("the open block", th)
+	}
+	x.log = nil
+	x.until(0, api.GOver)
+	want := "DoneO[{2 12}] 5 <open1 v3 rv2 [{2 2 7}] [{2 12}]> Read1 Commit[] 0 <commit0 v0 rv3 [{0 0 5} {1 1 1}] []> Give1 Over0 0"
+	if got := strings.Join(x.log, " "); got != want {
+		t.Errorf("%s, want\n%s", got, want)
+	}
+}
+
+// Fields of threads that the operations do not show.
+func TestFields(t *testing.T) {
+	x := start(t, before+"durable ref z;; check !y < 5;; thread (print 4; atomic (x := 1; z := 2); print 6; print 7; atomic (y := 9));;", 0)
+	if th := x.threads[0]; !slices.Equal(th.Print, []int{4}) {
+		t.Error(th.Print)
+	}
+	x.until(0, api.GCommit)
+	if th := x.threads[0]; th.Check != 0 || !slices.Equal(th.Op.Durable, []bool{false, true}) {
+		t.Error("at the commit", th.Check, th.Op)
+	}
+	x.until(0, api.GClear)
+	if th := x.threads[0]; th.Check != 0 || !slices.Equal(th.Print, []int{4, 6, 7}) {
+		t.Error("after the invariant", th.Check, th.Print)
+	}
+	// An open block whose operation is lost leaves nothing of its own.
+	x = start(t, before+"thread atomic open l (o := !o + 1) undo (fun u -> ());; thread atomic (open k (o := !o + 10) undo (fun u -> ()));;", 0)
+	x.until(0, api.GDoneO)
+	x.until(1, api.GOver)
+	x.step(0)
+	x.until(0, api.GClear)
+	if th := x.threads[0]; th.Mode != api.NOwn || th.Own != nil || th.Check != 0 || th.Then != api.WAgain {
+		t.Error("after the loss", th)
 	}
 }
 
@@ -476,6 +521,44 @@ func TestForbidden(t *testing.T) {
 		x.Frame = frame
 		if _, _, err := tx.Turn(c, l, x, 0, api.Out{Is: true}, 1); err != api.ErrArg {
 			t.Error(name, err)
+		}
+	}
+	// Requests that would be followed by a read, if they were not refused.
+	call := []api.Call{{}}
+	mark := func(kind int) []api.Mark {
+		return []api.Mark{{Kind: kind, A: 1, Calls: 1, Top: api.Call{Fun: 0}}}
+	}
+	for name, x := range map[string]struct {
+		first api.Ins
+		marks []api.Mark
+		open  bool
+	}{
+		"atomic in an open block": {op(api.IAtomic), nil, true}, "left in an open block": {op(api.IOrElse), nil, true}, "open in an open block": {fun, nil, true},
+		"the end of an atomic block in an open one": {op(api.IEnd), mark(api.IAtomic), true}, "the end of a left side in an open block": {api.Ins{Op: api.IEndLeft, A: 1}, mark(api.IOrElse), true}, "a retry in an open block": {op(api.IRetry), mark(api.IOrElse), true}, "print in an open block": {num, nil, true},
+		"the end of an open block": {op(api.IEndOpen), mark(api.IOpen), false}, "the last left side": {api.Ins{Op: api.IEndLeft, A: 1}, mark(api.IOrElse), false}, "the last retry": {op(api.IRetry), mark(api.IOrElse), false}, "print": {num, nil, false},
+	} {
+		rest := []api.Ins{x.first, ref, op(api.IGet), op(api.IRetry)}
+		if x.first.Op == api.IFun {
+			rest = []api.Ins{fun, op(api.IOpen), ref, op(api.IGet), op(api.IRetry)}
+		}
+		if x.first.Op == api.IPush {
+			rest = []api.Ins{num, op(api.IPrint), ref, op(api.IGet), op(api.IRetry)}
+		}
+		c := ins(rest...)
+		y := th
+		y.Frame = api.Frame{Calls: call, Marks: x.marks}
+		if x.open {
+			y.Phase, y.Levels = api.GOpen, []api.Level{{}, {}}
+		}
+		if _, _, err := tx.Turn(c, l, y, 0, api.Out{Is: true}, 1); err != api.ErrArg {
+			t.Error(name, err)
+		}
+		if x.open {
+			continue
+		}
+		c.Funs[0].Ins = []api.Ins{ref, op(api.IGet), op(api.IRetry)}
+		if next, _, err := tx.Turn(c, l, y, 0, api.Out{Is: true}, 1); err != api.OK || next.Phase != api.GRead {
+			t.Error(name, "does not read", err)
 		}
 	}
 }
