@@ -141,9 +141,12 @@ func TestStep(t *testing.T) {
 		if len(x.Events) > k && x.Events[k].Thread != 0 || len(y.Events) > k && y.Events[k].Thread != 1 {
 			t.Fatal("branches share events", k)
 		}
-		for me := range 2 {
-			if n := len(x.Threads[me].Steps); n > 0 && x.Events[x.Threads[me].Steps[n-1]].Thread != me {
-				t.Fatal("branches share steps", k)
+		run.Step(y, 0)
+		for me, th := range x.Threads {
+			for i, at := range th.Steps {
+				if at >= len(x.Events) || x.Events[at].Thread != me || x.Events[at].Result != th.Log[i] {
+					t.Fatal("branches share logs", k)
+				}
 			}
 		}
 		a = run.Step(x, 1)
