@@ -108,6 +108,58 @@ func TestCommands(t *testing.T) {
 	}
 }
 
+// The ten examples of the whole.
+func TestExamples(t *testing.T) {
+	for i, x := range []struct{ program, commands, want string }{
+		{"ref x;; thread atomic x := !x + 1;; thread atomic x := !x + 1;;", "run\nstate", "run: 51 events, 3 attempts, ok\nx 2\n"},
+		{"ref x;; thread !x;;", "run", "program: effect\n"},
+		{"thread atomic (print 1);;", "run", "program: effect\n"},
+		{"ref x = 5;; ref y;; thread atomic ((x := 9; retry) orelse (y := !x));;", "run\nstate", "run: 18 events, 1 attempts, ok\nx 5\ny 5\n"},
+		{"ref x;; thread try atomic (x := 9; raise 3) with e -> print e;;", "run\nstate\noutput", "run: 6 events, 1 attempts, ok\nx 0\n0: 3 done\n"},
+		{"open ref o = 5;; lock l;; thread atomic (open l (o := !o + 1) undo (fun u -> o := !o - 1); raise 4);;", "run\nstate\noutput\nattempts", "run: 40 events, 3 attempts, ok\no 5\n0: raised 4\nattempts: 0 1 0 0 1 1 0\n"},
+		{"ref x;; check !x < 9;; thread atomic (x := 9);;", "run\nstate\noutput", "run: 6 events, 1 attempts, ok\nx 0\n0: raised -1\n"},
+		{"ref n;; ref m;; thread atomic (if !n < 1 then retry else m := !n);; thread atomic n := 7;;", "script 0x30\nrun\nstate\nattempts\nscript 0x30\nlimit 30\nrun\noutput", "run: 76 events, 3 attempts, ok\nn 7\nm 7\nattempts: 2 0 1 0 0 0 0\nrun: 30 events, 1 attempts, fuel\n0: sleeping\n1: running\n"},
+		{"durable ref x = 4;; thread atomic x := 7;;", "script 0x13 !\nrun\nstate\nrecover\nscript 0x12 !7\nrun\nrecover\njudge", "run: 13 events, 0 attempts, crash\nx 4\nx 7\nrun: 12 events, 0 attempts, crash\nx 4\njudge: yes yes yes\n"},
+		{"durable ref x;; thread atomic x := 1;; thread atomic x := 2;;", "script 0x3 1~5 1 !7\nrun\nattempts", "run: 3 events, 0 attempts, crash\nattempts: 0 0 0 0 0 0 0\n"},
+	} {
+		if got := tool.Run(x.program + "\n%\n" + x.commands); got != x.want {
+			t.Errorf("example %d:\n%s, want\n%s", i+1, got, x.want)
+		}
+	}
+	for seed := range 30 {
+		w := &writer{Rand: rand.New(rand.NewSource(int64(seed)))}
+		script := strings.ReplaceAll(strings.ReplaceAll(w.script(), "2", "0"), "!", "1~")
+		if got := tool.Run("ref x;; thread atomic x := !x + 1;; thread atomic x := !x + 1;;\n%\nscript " + strings.ReplaceAll(script, ",", " ") + "\nrun\nstate"); !strings.HasSuffix(got, "\nx 2\n") {
+			t.Error("the first example", script, got)
+		}
+	}
+}
+
+// The initial settings, and what the managers change.
+func TestSettings(t *testing.T) {
+	reader := "thread let rec f n = (atomic (!a; !b; !c; !d); f n) in f 1;; "
+	if got := tool.Run("ref a;; ref b;; ref c;; ref d;; " + strings.Repeat(reader, 4) + "\n%\nmanager greedy\nrun"); !strings.HasPrefix(got, "run: 20000 events, ") || !strings.HasSuffix(got, " attempts, fuel\n") {
+		t.Error("the limit of events", got)
+	}
+	if got := tool.Run("durable ref a;; thread let rec f n = (atomic (a := n); f n) in f 1;;\n%\nrun\nattempts"); !strings.HasSuffix(got, " events, 64 attempts, full\nattempts: 64 0 0 0 0 0 0\n") {
+		t.Error("the number of sectors", got)
+	}
+	if got := tool.Run("open ref o;; lock l;; thread atomic (open l (o := 1; raise 5) undo (fun u -> ()));;\n%\nrun\nattempts"); !strings.HasSuffix(got, "attempts: 0 1 0 0 0 0 1\n") {
+		t.Error("a failed open block", got)
+	}
+	program := "ref x = 2;; durable ref y;; array a 3;; thread (print 3; atomic (y := !y + 4));; thread atomic ((y := 0) orelse (y := !a.[1] + 4; x := 0));;\n%\n"
+	seen := map[string]bool{tool.Run(program + "run"): true}
+	for _, manager := range []string{"greedy", "karma", "mixed"} {
+		seen[tool.Run(program+"manager "+manager+"\nrun")] = true
+	}
+	if len(seen) != 4 || !seen[tool.Run(program+"manager karma\nmanager timid\nrun")] {
+		t.Error("the managers", seen)
+	}
+	if got := tool.Run(program + "limit 0000009\nrun\nlimit 00000009"); got != lines("run: 9 events, 0 attempts, fuel", "unknown: limit 00000009") {
+		t.Error("seven digits", got)
+	}
+}
+
 // writer writes random programs, with open blocks.
 type writer struct {
 	*rand.Rand
