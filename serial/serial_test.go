@@ -282,6 +282,67 @@ func (w *writer) script(threads int) []api.Pick {
 	return l
 }
 
+// open writes an expression of type unit with open blocks, for an atomic block.
+func (w *writer) open(depth int) string {
+	if depth <= 0 {
+		return "()"
+	}
+	u := func() string { return w.open(depth - 1) }
+	n := strconv.Itoa(w.Intn(4))
+	change := func() string {
+		return w.pick(func() string { return "(o := !o * 2 + " + n + ")" }, func() string { return "(q := !o - !q)" }, func() string { return "(if !o < 9 then o := !o + 1 else raise " + n + ")" }, func() string { return "(o := 5; raise " + n + ")" })
+	}
+	block := func() string {
+		return "(open " + []string{"k", "l"}[w.Intn(2)] + " " + change() + " undo (fun u -> " + change() + "))"
+	}
+	return w.pick(block, block, u, func() string { return "(" + u() + "; " + u() + ")" }, func() string { return "(" + u() + " orelse " + u() + ")" }, func() string { return "(atomic " + u() + ")" },
+		func() string { return "(try " + u() + " with e -> (x := !x + e; " + u() + "))" }, func() string { return "(y := !x + " + n + "; " + u() + ")" }, func() string { return "(" + u() + "; retry)" }, func() string { return "(" + u() + "; if !y < 3 then raise " + n + " else ())" })
+}
+
+// A thread that runs alone does what the semantics says, also with open blocks: the same values, the same output, the same end.
+func TestAlone(t *testing.T) {
+	ends := map[string]int{}
+	for seed := range 3000 {
+		w := &writer{Rand: rand.New(rand.NewSource(int64(seed)))}
+		text := "ref x = 2;; ref y;; open ref o = 3;; open ref q;; lock k;; lock l;; "
+		if w.Intn(2) == 0 {
+			text += "check !y < 4;; "
+		}
+		text += "thread ((try atomic " + w.open(5) + " with e -> print e); (try atomic " + w.open(4) + " with e -> print (e + 100)); atomic " + w.open(4) + "; print 7);;"
+		p, s := play(t, text, seed%4, 4000, nil)
+		if !s.Over || s.Err != api.OK {
+			t.Fatal(text, s.Err)
+		}
+		at := [][]int{s.Code.Locs}
+		var r api.ThreadResult
+		for {
+			var err api.Errno
+			r, err = bigstep.Run(p, 0, at, bigstep.Fuel)
+			if err != api.OK {
+				t.Fatal(text, err)
+			}
+			if r.Kind != api.RStop {
+				break
+			}
+			at = append(at, r.Blocks[len(r.Blocks)-1].Locs)
+		}
+		th := s.Threads[0]
+		end := th.Phase == api.GSleep && r.Kind == api.RRetry || th.Phase == api.GOver && th.Kind == r.Kind && th.N == r.N
+		if last := r.Blocks[len(r.Blocks)-1].Locs; !end || !slices.Equal(th.Print, r.Print) || !slices.Equal(run.Locs(s), last) {
+			t.Fatalf("seed %d: %s: %v %v, want %v %v", seed, text, run.Locs(s), th.Print, last, r)
+		}
+		ends[[]string{"val", "exn", "retry"}[r.Kind]]++
+		for _, d := range s.Attempts {
+			ends[strings.Fields("? commit raise wait lost open undo fail")[d.Kind]]++
+		}
+	}
+	for _, what := range []string{"val", "exn", "retry", "open", "undo", "fail"} {
+		if ends[what] < 50 {
+			t.Error("too few:", what, ends)
+		}
+	}
+}
+
 // P32.4: random programs under random scripts and all managers. Runs that are cut off by a crash are replayed only: an exception may not have reached its handler then.
 func TestRandom(t *testing.T) {
 	counts := map[string]int{}
