@@ -310,3 +310,176 @@ func TestConsequences(t *testing.T) {
 		}
 	}
 }
+
+// rules checks the types of a program against the typing rules.
+type rules struct {
+	t      *testing.T
+	p      api.Prog
+	types  []api.Type
+	arrows []int
+}
+
+func (r *rules) need(is bool, k int) {
+	if !is {
+		r.t.Helper()
+		r.t.Fatalf("node %d of %s: %v", k, parse.Text(r.p), r.types)
+	}
+}
+
+// fun returns the components of the function type of a node.
+func (r *rules) fun(t api.Type, k int) (api.Type, api.Type) {
+	r.need(t.Kind == api.TFun && len(t.Of) == 2, k)
+	return t.Of[0], t.Of[1]
+}
+
+func same(a, b api.Type) bool { return reflect.DeepEqual(a, b) }
+
+// node checks a node where names have types; the type of a name is nil until a use of it tells.
+func (r *rules) node(k int, env map[string]*api.Type) api.Type {
+	n, t := r.p.Nodes[k], r.types[k]
+	bind := func(child int, pairs ...any) api.Type {
+		inner := map[string]*api.Type{}
+		for name, typed := range env {
+			inner[name] = typed
+		}
+		for i := 0; i < len(pairs); i += 2 {
+			inner[pairs[i].(string)] = pairs[i+1].(*api.Type)
+		}
+		return r.node(n.Of[child], inner)
+	}
+	child := func(i int) api.Type { return r.node(n.Of[i], env) }
+	integer, boolean, unit := api.Type{Kind: api.TInt}, api.Type{Kind: api.TBool}, api.Type{Kind: api.TUnit}
+	isRef := func(x api.Type) bool { return x.Kind == api.TRef || x.Kind == api.TOpen }
+	switch n.Kind {
+	case api.ENum:
+		r.need(same(t, integer), k)
+	case api.EBool:
+		r.need(same(t, boolean), k)
+	case api.EUnit:
+		r.need(same(t, unit), k)
+	case api.EVar:
+		if known := env[n.Name]; known.Kind == api.TVar {
+			*known = t
+		} else {
+			r.need(same(t, *known), k)
+		}
+	case api.EFun:
+		arg, res := r.fun(t, k)
+		r.need(t.N == r.arrows[k] && same(bind(0, n.Name, &arg), res), k)
+	case api.EApp:
+		arg, res := r.fun(child(0), k)
+		r.need(same(child(1), arg) && same(res, t), k)
+	case api.ELet:
+		value := child(0)
+		r.need(same(bind(1, n.Name, &value), t), k)
+	case api.ERec:
+		self := new(api.Type)
+		r.need(same(bind(1, n.Name, self), t), k)
+		arg := new(api.Type)
+		if self.Kind != api.TVar {
+			*arg, _ = r.fun(*self, k)
+			r.need(self.N == r.arrows[k], k)
+		}
+		res := bind(0, n.Name, self, n.Name2, arg)
+		if self.Kind != api.TVar {
+			r.need(same(self.Of[1], res) && (arg.Kind == api.TVar || same(self.Of[0], *arg)), k)
+		}
+	case api.EIf:
+		r.need(same(child(0), boolean) && same(child(1), t) && same(child(2), t), k)
+	case api.ESeq:
+		child(0)
+		r.need(same(child(1), t), k)
+	case api.EPair:
+		r.need(same(t, api.Type{Kind: api.TPair, Of: []api.Type{child(0), child(1)}}), k)
+	case api.EFst, api.ESnd:
+		pair := child(0)
+		r.need(pair.Kind == api.TPair && same(t, pair.Of[n.Kind-api.EFst]), k)
+	case api.ENone:
+		r.need(t.Kind == api.TOpt, k)
+	case api.ESome:
+		r.need(same(t, api.Type{Kind: api.TOpt, Of: []api.Type{child(0)}}), k)
+	case api.EMatch:
+		option := child(0)
+		r.need(option.Kind == api.TOpt, k)
+		content := option.Of[0]
+		r.need(same(child(1), t) && same(bind(2, n.Name, &content), t), k)
+	case api.EBin:
+		operand, result := integer, boolean
+		if n.N <= api.OMul {
+			result = integer
+		} else if n.N >= api.OAnd {
+			operand = boolean
+		}
+		r.need(same(child(0), operand) && same(child(1), operand) && same(t, result), k)
+	case api.EGet:
+		r.need(isRef(child(0)) && same(t, integer), k)
+	case api.ESet:
+		r.need(isRef(child(0)) && same(child(1), integer) && same(t, unit), k)
+	case api.EIndex:
+		array := child(0)
+		r.need(same(child(1), integer) && (array.Kind == api.TArray && t.Kind == api.TRef || array.Kind == api.TOArr && t.Kind == api.TOpen), k)
+	case api.ERaise:
+		r.need(same(child(0), integer), k)
+	case api.ETry:
+		e := integer
+		r.need(same(child(0), t) && same(bind(1, n.Name, &e), t), k)
+	case api.EAtomic:
+		r.need(same(child(0), t), k)
+	case api.EOrElse:
+		r.need(same(child(0), t) && same(child(1), t), k)
+	case api.EOpen:
+		arg, res := r.fun(child(1), k)
+		r.need(same(child(0), t) && same(arg, unit) && same(res, unit), k)
+	case api.EPrint:
+		r.need(same(child(0), integer) && same(t, unit), k)
+	}
+	return t
+}
+
+// expr writes a random expression, which may have no type.
+func expr(r *rand.Rand, depth int) string {
+	simple := []string{"0", "17", "true", "()", "x", "y", "f", "g", "o", "a", "b", "None", "retry", "n"}
+	if depth == 0 {
+		return simple[r.Intn(len(simple))]
+	}
+	shapes := []string{"fun x -> E", "fun f -> E", "E E", "f E", "let x = E in E", "let f = fun y -> E in E", "let rec f x = E in E", "let rec g y = E in E", "if E then E else E", "E; E", "(E, E)", "fst E", "snd E", "Some E", "fst (E, E)",
+		"match E with None -> E | Some x -> E", "match Some E with None -> E | Some g -> E", "E + E", "E < E", "E && E", "!E", "!x", "o := E", "a.[E]", "E.[E]", "b.[0]", "raise E", "try E with x -> E", "atomic E", "E orelse E", "open l E undo fun x -> ()", "print E"}
+	out := shapes[r.Intn(len(shapes))]
+	for strings.Contains(out, "E") {
+		out = strings.Replace(out, "E", strings.ReplaceAll(expr(r, depth-1), "E", "e"), 1)
+	}
+	return "(" + out + ")"
+}
+
+// P6.4: the returned types satisfy the typing rules.
+func TestRules(t *testing.T) {
+	r := rand.New(rand.NewSource(1))
+	typed, functions := 0, 0
+	for range 60000 {
+		p, err := parse.Of("ref x;; open ref o;; array a 3;; open array b 2;; lock l;; let n = 3;; ref y;; let f = fun z -> z;; let g = fun z -> z;; thread " + expr(r, 1+r.Intn(3)) + ";; thread " + expr(r, 1+r.Intn(3)) + ";;")
+		if err != api.OK {
+			continue
+		}
+		l, err := types.Of(p)
+		if err != api.OK {
+			continue
+		}
+		arrows, _ := types.Arrows(p)
+		typed++
+		c := &rules{t, p, l, arrows}
+		env := map[string]*api.Type{"x": {Kind: api.TRef}, "y": {Kind: api.TRef}, "o": {Kind: api.TOpen}, "a": {Kind: api.TArray}, "b": {Kind: api.TOArr}}
+		for _, d := range p.Decls {
+			switch d.Kind {
+			case api.DLet:
+				value := c.node(d.Body, env)
+				env[d.Name] = &value
+				functions += len(l[d.Body].Of)
+			case api.DThread:
+				c.node(d.Body, env)
+			}
+		}
+	}
+	if typed < 2000 || functions < 4000 {
+		t.Error("few typed programs", typed, functions)
+	}
+}
