@@ -79,6 +79,33 @@ func TestStart(t *testing.T) {
 	}
 }
 
+// Frames share no unit value: what happens to one of them is not visible in the next one.
+func TestUnitsOfFrames(t *testing.T) {
+	c := program(num(1), ret)
+	base := start(c)
+	units := map[string]func() *api.Value{
+		"Start": func() *api.Value { f := start(c); return &f.Calls[0].Local[0] },
+		"Undo": func() *api.Value {
+			f, _ := vm.Undo(c, api.Value{Kind: api.VFun, N: 1})
+			return &f.Calls[0].Local[0]
+		},
+		"Check":  func() *api.Value { f, _ := vm.Check(c, base, 0); return &f.Calls[1].Local[0] },
+		"Resume": func() *api.Value { f, _ := vm.Resume(base, ask(api.QSet, 0, 0), 0); return &f.Calls[0].Stack[0] },
+	}
+	for name, of := range units {
+		for range 2 {
+			v := of()
+			if !reflect.DeepEqual(*v, unit) {
+				t.Error(name, *v)
+			}
+			*v = api.Value{Kind: api.VPair, N: 7, Of: []api.Value{none, none}}
+		}
+	}
+	if !reflect.DeepEqual(base, start(c)) {
+		t.Error("a frame was modified")
+	}
+}
+
 func TestRight(t *testing.T) {
 	c := program(num(1), ret)
 	call := api.Call{Local: []api.Value{unit}}
